@@ -221,3 +221,21 @@ func TestMixOfAMix(t *testing.T) {
 		gives(t, "9.6: Mix of Mix", it, entriesIn(edited(edited(m, one), two), in), api.OK)
 	}
 }
+
+// TestMixBehindAnError: a base that would go on is left there.
+func TestMixBehindAnError(t *testing.T) {
+	asked, left := 0, false
+	base := func(yield func(api.Entry, api.Errno) bool) {
+		for i, e := range []api.Errno{api.OK, api.ErrTree, api.OK, api.ErrPower} {
+			asked++
+			if !yield(list(fmt.Sprint("k", i), "v")[0], e) {
+				left = true
+				return
+			}
+		}
+	}
+	gives(t, "9.6: Mix over a base that would go on", sweep.Mix(base, []api.Edit{puts("a", "1"), puts("k2", "2")}, all), list("a", "1", "k0", "v"), api.ErrTree)
+	if asked != 2 || !left {
+		t.Errorf("9.6: behind its error the base is asked for %d things more, and is left: %v", asked-2, left)
+	}
+}
