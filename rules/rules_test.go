@@ -22,9 +22,9 @@ const (
 	mostRows = 60 // lines of a function
 )
 
-// layers are the program's packages; each calls those ahead of it alone. (trees is what the layers from skip on have in common.)
+// layers are the program's packages; each calls those ahead of it alone. (trees and spans are what several layers from skip on have in common.)
 var layers = []string{
-	"api", "digest", "codec", "disk", "heaps", "segment", "blobs", "node", "trees", "skip", "sweep",
+	"api", "digest", "codec", "disk", "heaps", "segment", "blobs", "node", "trees", "spans", "skip", "sweep",
 	"prove", "verify", "extract", "annals", "catalog", "compact", "vault", "audit", "mirror", "console",
 }
 

@@ -7,6 +7,7 @@ import (
 
 	"witness/api"
 	"witness/heaps"
+	"witness/spans"
 )
 
 // coming is what comes next out of a base, or out of edits.
@@ -26,7 +27,7 @@ func copiesIn(s api.Span, l []api.Edit) []coming {
 	var edits []coming
 	for _, e := range l {
 		switch {
-		case !has(s, e.Key):
+		case !spans.Has(s, e.Key):
 		case e.Gone:
 			edits = append(edits, coming{entry: api.Entry{Key: bytes.Clone(e.Key)}, edit: true, gone: true})
 		default:

@@ -8,21 +8,11 @@ import (
 	"witness/api"
 	"witness/blobs"
 	"witness/skip"
+	"witness/spans"
 	"witness/trees"
 )
 
 func less(a, b []byte) bool { return bytes.Compare(a, b) < 0 }
-
-// unfit is what a span that is not fit is refused with; OK, if it is fit.
-func unfit(s api.Span) api.Errno {
-	switch {
-	case len(s.Lo) > api.MaxKey+1, !s.Open && len(s.Hi) > api.MaxKey+1:
-		return api.ErrLimit
-	case !s.Open && !less(s.Lo, s.Hi):
-		return api.ErrBounds
-	}
-	return api.OK
-}
 
 // copyOf is a span that its maker can't change any more.
 func copyOf(s api.Span) api.Span {
@@ -38,10 +28,6 @@ func behind(s api.Span, key []byte) api.Span {
 	s.Lo = slices.Concat(key, []byte{0}) // no key lies between the two
 	return s
 }
-
-func aheadOfEnd(s api.Span, key []byte) bool { return s.Open || less(key, s.Hi) }
-
-func has(s api.Span, key []byte) bool { return !less(key, s.Lo) && aheadOfEnd(s, key) }
 
 // wayOf is the towers of a text's way. What is longer than a key goes the way of what it begins with: no key lies between the two.
 func wayOf(b *blobs.Blobs, t api.Tree, key []byte) ([]api.Tower, api.Errno) {
@@ -133,7 +119,7 @@ func towersIn(b *blobs.Blobs, t api.Tree, s api.Span) iter.Seq2[api.Tower, api.E
 			return
 		}
 		c, errno := courseBehind(way, s.Lo)
-		for errno == api.OK && len(c) > 0 && aheadOfEnd(s, c.first().Key) {
+		for errno == api.OK && len(c) > 0 && spans.AheadOfEnd(s, c.first().Key) {
 			var tower api.Tower
 			if tower, c, errno = c.opened(b); errno == api.OK && !yield(tower, api.OK) {
 				return
@@ -147,7 +133,7 @@ func towersIn(b *blobs.Blobs, t api.Tree, s api.Span) iter.Seq2[api.Tower, api.E
 
 // hasAny tells whether a key lies in a span; none does in one that is not fit.
 func hasAny(b *blobs.Blobs, t api.Tree, s api.Span) (bool, api.Errno) {
-	if unfit(s) != api.OK {
+	if spans.Unfit(s) != api.OK {
 		return false, api.OK
 	}
 	for _, errno := range towersIn(b, t, s) {
