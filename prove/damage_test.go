@@ -261,7 +261,117 @@ func (n *noise) kids(left *[]api.Kid, key string, height int) []api.Kid {
 	return l
 }
 
-// thicket is towers that hang together in more ways than can be gone.
+// alike lays down a tower with the value v, as all that it lays down: so there are few blobs beside the towers.
+func (s store) alike(key string, kids ...api.Kid) api.Kid {
+	s.t.Helper()
+	return s.laid(api.Tower{Key: []byte(key), Value: s.value("v"), Kids: kids})
+}
+
+// pair is a tree at whose head two towers hang, b and x, with one and the same kid: the first of a row of towers that hang at one another.
+func (s store) pair(row int) api.Tree {
+	s.t.Helper()
+	var hang []api.Kid
+	for i := row; i > 0; i-- {
+		hang = []api.Kid{s.alike(keysOf(1, 1, fmt.Sprintf("y%02d", i))[0], hang...)}
+	}
+	return s.tree(s.alike(keysOf(2, 1, "x")[0], hang...), s.alike(keysOf(1, 1, "b")[0], hang...))
+}
+
+// others puts blobs to which no tower leads.
+func (s store) others(n int) {
+	s.t.Helper()
+	for i := range n {
+		s.value(fmt.Sprintf("other %d", i))
+	}
+}
+
+// holdsByHand holds the proofs of some spans against the document's walk; what else is in the blobs does not matter to them.
+func (s store) holdsByHand(what string, x api.Tree, l ...api.Span) {
+	s.t.Helper()
+	for _, n := range []int{0, 40, 400} {
+		s.others(n)
+		for _, in := range l {
+			s.proves(fmt.Sprintf("%s, %d other blobs,", what, n), x, in, api.Proof{Count: x.Count, Ops: s.walk(x, in).ops})
+		}
+	}
+}
+
+// TestOneTowerHangsAtTwo: the walk comes to it twice, and so do its ops.
+func TestOneTowerHangsAtTwo(t *testing.T) {
+	for _, row := range []int{1, 2, 3, 7, 20} {
+		s := wide(t)
+		x := s.pair(row)
+		if ops := s.walk(x, all).ops; x.Count != uint64(2*row+2) || len(ops) != 4*row+5 {
+			t.Fatalf("%d in the row: the walk has %d ops of %d keys", row, len(ops), x.Count)
+		}
+		s.holdsByHand(fmt.Sprintf("%d in the row", row), x, all, from("b"), from("c"), from("y"), from("z"), span("", "c"), span("b", "y02"), prove.Only([]byte("b")), prove.Only([]byte("y01")))
+	}
+}
+
+// TestTheOpsOfAPair: told one by one.
+func TestTheOpsOfAPair(t *testing.T) {
+	s := wide(t)
+	b, x, first, second := keysOf(1, 1, "b")[0], keysOf(2, 1, "x")[0], keysOf(1, 1, "ya")[0], keysOf(1, 1, "yb")[0]
+	hang := s.alike(first, s.alike(second))
+	tree := s.tree(s.alike(x, hang), s.alike(b, hang))
+	both := func(level int, key string, count uint64) api.Op {
+		return api.Op{Kind: api.OpBoth, Level: level, Key: []byte(key), Count: count}
+	}
+	in := api.Op{Kind: api.OpIn, Value: []byte("v")}
+	part := []api.Op{both(0, first, 2), in, both(0, second, 1), in, in}
+	ops := slices.Concat([]api.Op{both(1, x, 3), both(0, b, 3), {Kind: api.OpHead}}, part, part)
+	s.proves("alone in its blobs", tree, all, api.Proof{Count: 6, Ops: ops})
+	s.others(40)
+	s.proves("with other blobs", tree, all, api.Proof{Count: 6, Ops: ops})
+}
+
+// TestTowersThatAreShared: likewise of trees at chance, where any tower may hang at any other.
+func TestTowersThatAreShared(t *testing.T) {
+	keys := slices.Concat(keysOf(1, 5, "a"), keysOf(2, 3, "a"), keysOf(3, 2, "b"), keysOf(1, 4, "c"), keysOf(4, 2, "c"))
+	slices.Sort(keys)
+	n := &noise{x: 33}
+	twice := 0
+	for round := 0; round < 60 && !t.Failed(); round++ {
+		s := wide(t)
+		var kids []api.Kid
+		for _, key := range slices.Backward(keys) {
+			left := slices.Clone(kids)
+			kids = append(kids, s.tower(key, n.kids(&left, key, heightOf(key))...))
+		}
+		x := s.tree(n.kids(&kids, "", 24)...)
+		if came := s.walk(x, all).came; len(came) > len(distinct(addrsOf(came))) {
+			twice++
+		}
+		for _, in := range []api.Span{all, from("b"), span("a", "c"), span(keys[3], keys[9]), prove.Only([]byte(keys[n.below(len(keys))]))} {
+			s.proves("a tree with towers that are shared", x, in, api.Proof{Count: x.Count, Ops: s.walk(x, in).ops})
+		}
+	}
+	if twice < 20 {
+		t.Errorf("only %d of the walks came to a tower twice", twice)
+	}
+}
+
+func addrsOf(towers []api.Tower) []api.Addr {
+	var l []api.Addr
+	for _, t := range towers {
+		l = append(l, towerAddr(t))
+	}
+	return l
+}
+
+// TestASharedTowerThatCannotBeHad: that it was to be gone into twice does not change what is answered.
+func TestASharedTowerThatCannotBeHad(t *testing.T) {
+	s := wide(t)
+	x := s.pair(7)
+	towers := s.walk(x, all).came
+	s.turn(towerAddr(towers[len(towers)-1]))
+	s.fails("the row's last tower is damaged", x, all, api.ErrTree)
+	s.fails("the row's last tower is damaged", x, from("y07"), api.ErrTree)
+	s.off()
+	s.fails("without power", x, all, api.ErrPower)
+}
+
+// thicket is towers that hang together in more ways than there are blobs by far.
 func (s store) thicket(rows int) api.Tree {
 	s.t.Helper()
 	var last []api.Kid
@@ -281,15 +391,22 @@ func (s store) thicket(rows int) api.Tree {
 	return s.tree(last...)
 }
 
-// TestCallsEnd: also where the walk would come to more towers than can be counted. No map is such.
-func TestCallsEnd(t *testing.T) {
+func TestThickets(t *testing.T) {
+	s := wide(t)
+	x := s.thicket(5)
+	if came := len(s.walk(x, all).came); came < 10*s.b.Len() {
+		t.Fatalf("the walk comes to %d towers, and there are %d blobs", came, s.b.Len())
+	}
+	s.holdsByHand("a thicket", x, all, from("02"), span("01", "04"), from("zz"), prove.Only([]byte("03")))
+}
+
+// TestTheEdgeOfAThicket: of one that none could come through, what the walk does not go into is not looked at.
+func TestTheEdgeOfAThicket(t *testing.T) {
 	s := wide(t)
 	x := s.thicket(30)
 	if x.Count < 1<<26 {
 		t.Fatalf("the tree has only %d keys", x.Count)
 	}
-	s.fails("a thicket", x, all, api.ErrTree)
-	s.fails("a thicket", x, from("02"), api.ErrTree)
 	for _, in := range []api.Span{span("", "0"), from("zz"), span("30", "31"), prove.Only([]byte("15"))} {
 		s.proves("the edge of a thicket", x, in, api.Proof{Count: x.Count, Ops: s.walk(x, in).ops})
 	}

@@ -36,9 +36,9 @@ func walked(b *blobs.Blobs, t api.Tree, s api.Span, most int) (walker, api.Errno
 	return w, api.OK
 }
 
-// walk lays down the ops of a tower, and of all towers that are gone into behind it.
+// walk lays down the ops of a tower, and of all towers that are gone into behind it. One that hangs at two places comes twice; it ends, as a kid's key is above its tower's.
 func (w *walker) walk(t api.Tower) api.Errno {
-	for range w.b.Len() { // more towers than there are blobs are no map's: one of them came twice
+	for {
 		errno := w.along(t)
 		if errno != api.OK || len(w.left) == 0 {
 			return errno
@@ -50,7 +50,6 @@ func (w *walker) walk(t api.Tower) api.Errno {
 			return errno
 		}
 	}
-	return api.ErrTree
 }
 
 // along lays down one tower's ops; the kids that are gone into are left, the lowest one last: it comes ahead of the others.
