@@ -93,6 +93,22 @@ func TestImports(t *testing.T) {
 	})
 }
 
+// TestVerifyStandsAlone: whoever trusts a label needs digest and codec, and no store.
+func TestVerifyStandsAlone(t *testing.T) {
+	below := []string{module + "api", module + "digest", module + "codec"}
+	eachFile(t, func(path string, _ []byte, _ *token.FileSet, file *ast.File) {
+		if filepath.Base(filepath.Dir(path)) != "verify" {
+			return
+		}
+		for _, spec := range file.Imports {
+			name, _ := strconv.Unquote(spec.Path.Value)
+			if strings.HasPrefix(name, module) && !slices.Contains(below, name) {
+				t.Errorf("%s imports %s", path, name)
+			}
+		}
+	})
+}
+
 func TestLayout(t *testing.T) {
 	eachFile(t, func(path string, text []byte, _ *token.FileSet, _ *ast.File) {
 		if laid, err := format.Source(text); err != nil || !bytes.Equal(laid, text) {
