@@ -635,3 +635,53 @@ func TestSameCalls(t *testing.T) {
 		t.Error("5.1: another count")
 	}
 }
+
+// TestOrderOfSteps: the annals grow ahead of the commit, and the commit asks for its Seq ahead of its page.
+func TestOrderOfSteps(t *testing.T) {
+	base := storeDisk(t, 2)
+	for _, seq := range []bool{false, true} {
+		for _, number := range []bool{false, true} {
+			h := handOf(t, base)
+			if seq {
+				h.super.Seq = last
+			}
+			if number {
+				ended(&h.page, last, 1)
+			}
+			want := func(add bool) api.Errno {
+				switch {
+				case add && number:
+					return api.ErrLast
+				case !add && seq:
+					return api.ErrLast
+				}
+				return api.ErrFull
+			}
+			c := open(t, h.lay())
+			before := viewOf(c)
+			full := func() { // a change in which no frame has room
+				must(t, "6.8: Begin", c.Blobs().Begin())
+				for _, n := range []int{900, 100, 10, 0} {
+					e := api.OK
+					for i := 0; e == api.OK; i++ {
+						_, e = c.Blobs().Put(api.KindValue, bytes.Repeat([]byte{byte(i)}, n+i%256/64))
+						if e == api.OK && i > 3000 {
+							break
+						}
+					}
+				}
+			}
+			what := fmt.Sprintf("14.7: the last Seq %v, the last number %v, a full disk", seq, number)
+			full()
+			_, e := c.Add(c.Latest().Tree)
+			answers(t, what+": Add", e, want(true))
+			holds(t, what, viewOf(c), before)
+			full()
+			answers(t, what+": Commit", c.Commit(), want(false))
+			holds(t, what, viewOf(c), before)
+			full()
+			answers(t, what+": Keep(0)", c.Keep(0), api.ErrWindow)
+			holds(t, what, viewOf(c), before)
+		}
+	}
+}
