@@ -2,7 +2,6 @@ package compact_test
 
 import (
 	"fmt"
-	"slices"
 	"strings"
 	"testing"
 
@@ -284,17 +283,15 @@ func TestForgets(t *testing.T) {
 	stray, e := b.Put(api.KindValue, []byte("needed by nobody"))
 	must(t, "6.3: Put", e)
 	place, _ := b.Where(stray)
-	was := viewOf(c)
-	d.Fuse(3)
 	x := d.Copy()
+	was := each(b)
+	d.Fuse(3)
 	runs(t, "the power gone", c, 0, api.ErrPower)
-	if len(each(b)) != len(was.Blobs) {
-		t.Error("15.3: a refused Run has forgotten a blob")
-	}
-	x.Crash(api.Crash{Torn: -1, Keep: slices.Repeat([]bool{true}, len(x.Pending()))})
+	holds(t, "15.3: behind a refused Run", each(b), was)
+
 	c = open(t, x)
 	b = c.Blobs()
-	stray, e = b.Put(api.KindValue, []byte("needed by nobody"))
+	_, e = b.Put(api.KindValue, []byte("needed by nobody"))
 	must(t, "6.3: Put", e)
 	runs(t, "a stray blob", c, 1, api.OK)
 	live, _ := c.Live()
