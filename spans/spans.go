@@ -22,6 +22,15 @@ func Unfit(s api.Span) api.Errno {
 	return api.OK
 }
 
+// Refused is what a question for the first entries of a span, so many at most, is refused with; OK, if it can be answered.
+func Refused(s api.Span, most int) api.Errno {
+	errno := Unfit(s)
+	if errno == api.OK && (most < 1 || most > api.MaxAnswer) {
+		return api.ErrMost
+	}
+	return errno
+}
+
 // BehindStart tells whether a key is above a span's first one.
 func BehindStart(s api.Span, key []byte) bool { return less(s.Lo, key) }
 

@@ -29,6 +29,19 @@ func TestUnfit(t *testing.T) {
 	}
 }
 
+func TestRefused(t *testing.T) {
+	for most, want := range map[int]api.Errno{-1: api.ErrMost, 0: api.ErrMost, 1: api.OK, 4096: api.OK, 4097: api.ErrMost} {
+		for _, s := range []api.Span{from(""), span("a", "b"), span("a", "a"), from(strings.Repeat("k", 1026))} {
+			if unfit := spans.Unfit(s); unfit != api.OK {
+				want = unfit
+			}
+			if got := spans.Refused(s, most); got != want {
+				t.Errorf("Refused(%.20q, %.20q, %v, %d) = %d, want %d", s.Lo, s.Hi, s.Open, most, got, want)
+			}
+		}
+	}
+}
+
 func TestKeys(t *testing.T) {
 	keys := []string{"", "\x00", "a", "a\x00", "b", "\x7f", "\x80"}
 	for _, lo := range keys {
