@@ -6,6 +6,7 @@ import (
 	"witness/annals"
 	"witness/api"
 	"witness/codec"
+	"witness/pages"
 )
 
 // Add commits a tree as the next version.
@@ -33,7 +34,7 @@ func (c *Catalog) Add(t api.Tree) (api.Version, api.Errno) {
 // Keep commits another window: how many versions are kept at most.
 func (c *Catalog) Keep(window int) api.Errno {
 	return c.change(func() api.Errno {
-		if !windowFits(window) {
+		if !pages.WindowFits(window) {
 			return api.ErrWindow
 		}
 		log := c.blobs.Log()

@@ -5,6 +5,7 @@ import (
 	"witness/api"
 	"witness/blobs"
 	"witness/disk"
+	"witness/pages"
 	"witness/segment"
 	"witness/skip"
 )
@@ -12,11 +13,11 @@ import (
 // Format makes a disk one that has the empty map as version 0.
 func Format(d *disk.Disk, span, window int) api.Errno {
 	switch {
-	case !spanFits(span):
+	case !pages.SpanFits(span):
 		return api.ErrSpan
 	case d == nil || segment.Count(d.Sectors(), span) < 2:
 		return api.ErrSize
-	case !windowFits(window):
+	case !pages.WindowFits(window):
 		return api.ErrWindow
 	}
 	seq, errno := wipe(d)
@@ -36,14 +37,14 @@ func Format(d *disk.Disk, span, window int) api.Errno {
 
 // wipe makes both slots zeros, the one that holds last: so no older superblock ever holds. It answers the Seq that held; 0, if none did.
 func wipe(d *disk.Disk) (uint64, api.Errno) {
-	held, errno := holding(d)
+	held, errno := pages.Holding(d)
 	switch {
 	case errno != api.OK && errno != api.ErrMagic:
 		return 0, errno
 	case held.Seq == api.MaxNumber:
 		return 0, api.ErrLast
 	}
-	for _, slot := range []int{slotOf(held.Seq + 1), slotOf(held.Seq)} {
+	for _, slot := range []int{pages.SlotOf(held.Seq + 1), pages.SlotOf(held.Seq)} {
 		if errno := writeSlot(d, slot, make([]byte, d.Size())); errno != api.OK {
 			return 0, errno
 		}

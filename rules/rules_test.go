@@ -22,10 +22,10 @@ const (
 	mostRows = 60 // lines of a function
 )
 
-// layers are the program's packages; each calls those ahead of it alone. (trees and spans are what several layers from skip on have in common.)
+// layers are the program's packages; each calls those ahead of it alone. (trees and spans are what several layers from skip on have in common, pages what catalog and audit have.)
 var layers = []string{
 	"api", "digest", "codec", "disk", "heaps", "segment", "blobs", "node", "trees", "spans", "skip", "sweep",
-	"prove", "verify", "extract", "annals", "catalog", "compact", "vault", "audit", "mirror", "console",
+	"prove", "verify", "extract", "annals", "pages", "catalog", "compact", "vault", "audit", "mirror", "console",
 }
 
 var library = []string{
@@ -106,6 +106,30 @@ func TestVerifyStandsAlone(t *testing.T) {
 				t.Errorf("%s imports %s", path, name)
 			}
 		}
+	})
+}
+
+// TestAuditOpensNothing: an audit needs no catalog, no vault and no store of blobs, of which it takes the digest alone.
+func TestAuditOpensNothing(t *testing.T) {
+	below := []string{"api", "disk", "codec", "segment", "blobs", "node", "annals", "heaps", "pages"}
+	eachFile(t, func(path string, _ []byte, _ *token.FileSet, file *ast.File) {
+		if filepath.Base(filepath.Dir(path)) != "audit" {
+			return
+		}
+		for _, spec := range file.Imports {
+			name, _ := strconv.Unquote(spec.Path.Value)
+			if own, ok := strings.CutPrefix(name, module); ok && !slices.Contains(below, own) {
+				t.Errorf("%s imports %s", path, name)
+			}
+		}
+		ast.Inspect(file, func(n ast.Node) bool {
+			if s, ok := n.(*ast.SelectorExpr); ok {
+				if x, ok := s.X.(*ast.Ident); ok && x.Name == "blobs" && s.Sel.Name != "Digest" {
+					t.Errorf("%s uses blobs.%s", path, s.Sel.Name)
+				}
+			}
+			return true
+		})
 	})
 }
 

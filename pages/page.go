@@ -1,4 +1,4 @@
-package catalog
+package pages
 
 import (
 	"slices"
@@ -15,8 +15,8 @@ const (
 	frameBytes  = 13 // of a frame, beside its body
 )
 
-// pageOf is the page that a superblock names; ErrPage, if it is none that can be taken.
-func pageOf(d *disk.Disk, s api.Super) (api.Page, api.Errno) {
+// Of is the page that a superblock names; ErrPage, if it is none that can be taken.
+func Of(d *disk.Disk, s api.Super) (api.Page, api.Errno) {
 	if !placeFits(s) {
 		return api.Page{}, api.ErrPage
 	}
@@ -41,7 +41,7 @@ func pageOf(d *disk.Disk, s api.Super) (api.Page, api.Errno) {
 
 // placeFits tells whether a superblock names bytes of a segment of its disk in which a frame may lie.
 func placeFits(s api.Super) bool {
-	return spanFits(s.Span) && segment.Count(s.Sectors, s.Span) >= 2 &&
+	return SpanFits(s.Span) && segment.Count(s.Sectors, s.Span) >= 2 &&
 		s.Page.Seg < segment.Count(s.Sectors, s.Span) &&
 		s.Page.At >= headerBytes && s.Page.Len >= frameBytes && s.Page.At+s.Page.Len <= s.Span*s.Size
 }
@@ -74,13 +74,15 @@ func pageIn(b []byte, serial uint64, at int) (api.Page, bool) {
 func pageFits(p api.Page, s api.Super, serial uint64) bool {
 	return len(p.Marks) == segment.Count(s.Sectors, s.Span) &&
 		p.Marks[s.Page.Seg] == api.Mark{Serial: serial, Used: s.Page.At} &&
-		windowFits(p.Window) && len(p.Versions) <= p.Window &&
+		WindowFits(p.Window) && len(p.Versions) <= p.Window &&
 		versionsFit(p) && annalsFit(p)
 }
 
-func spanFits(span int) bool { return span >= api.MinSpan && span <= api.MaxSpan }
+// SpanFits tells whether segments may have so many sectors.
+func SpanFits(span int) bool { return span >= api.MinSpan && span <= api.MaxSpan }
 
-func windowFits(window int) bool { return window >= 1 && window <= api.MaxWindow }
+// WindowFits tells whether so many versions may be kept.
+func WindowFits(window int) bool { return window >= 1 && window <= api.MaxWindow }
 
 // versionsFit tells whether there is a version, and their numbers rise one by one up to the last.
 func versionsFit(p api.Page) bool {
@@ -103,8 +105,8 @@ func annalsFit(p api.Page) bool {
 	return errno == api.OK && p.Annal.Size == p.Last+1
 }
 
-// logOf is the log as the page left it: behind the page's own frame.
-func logOf(d *disk.Disk, s api.Super, p api.Page) (*segment.Log, api.Errno) {
+// Log is the log as the page left it: behind the page's own frame.
+func Log(d *disk.Disk, s api.Super, p api.Page) (*segment.Log, api.Errno) {
 	marks := slices.Clone(p.Marks)
 	marks[s.Page.Seg].Used = s.Page.At + s.Page.Len
 	return segment.Open(d, s.Span, p.Serial, marks)
