@@ -93,27 +93,11 @@ func TestImports(t *testing.T) {
 	})
 }
 
-// TestVerifyStandsAlone: whoever trusts a label needs digest and codec, and no store.
-func TestVerifyStandsAlone(t *testing.T) {
-	below := []string{module + "api", module + "digest", module + "codec"}
+// imports holds which of the program's packages one of them imports.
+func imports(t *testing.T, layer string, below ...string) {
+	t.Helper()
 	eachFile(t, func(path string, _ []byte, _ *token.FileSet, file *ast.File) {
-		if filepath.Base(filepath.Dir(path)) != "verify" {
-			return
-		}
-		for _, spec := range file.Imports {
-			name, _ := strconv.Unquote(spec.Path.Value)
-			if strings.HasPrefix(name, module) && !slices.Contains(below, name) {
-				t.Errorf("%s imports %s", path, name)
-			}
-		}
-	})
-}
-
-// TestAuditOpensNothing: an audit needs no catalog, no vault and no store of blobs, of which it takes the digest alone.
-func TestAuditOpensNothing(t *testing.T) {
-	below := []string{"api", "disk", "codec", "segment", "blobs", "node", "annals", "heaps", "pages"}
-	eachFile(t, func(path string, _ []byte, _ *token.FileSet, file *ast.File) {
-		if filepath.Base(filepath.Dir(path)) != "audit" {
+		if filepath.Base(filepath.Dir(path)) != layer {
 			return
 		}
 		for _, spec := range file.Imports {
@@ -121,6 +105,24 @@ func TestAuditOpensNothing(t *testing.T) {
 			if own, ok := strings.CutPrefix(name, module); ok && !slices.Contains(below, own) {
 				t.Errorf("%s imports %s", path, name)
 			}
+		}
+	})
+}
+
+// TestVerifyStandsAlone: whoever trusts a label needs digest and codec, and no store.
+func TestVerifyStandsAlone(t *testing.T) { imports(t, "verify", "api", "digest", "codec") }
+
+// TestMirrorAsksTheVault: a mirror knows its copy, and the other side, by the vault's face alone.
+func TestMirrorAsksTheVault(t *testing.T) {
+	imports(t, "mirror", "api", "codec", "node", "annals", "verify", "vault")
+}
+
+// TestAuditOpensNothing: an audit needs no catalog, no vault and no store of blobs, of which it takes the digest alone.
+func TestAuditOpensNothing(t *testing.T) {
+	imports(t, "audit", "api", "disk", "codec", "segment", "blobs", "node", "annals", "heaps", "pages")
+	eachFile(t, func(path string, _ []byte, _ *token.FileSet, file *ast.File) {
+		if filepath.Base(filepath.Dir(path)) != "audit" {
+			return
 		}
 		ast.Inspect(file, func(n ast.Node) bool {
 			if s, ok := n.(*ast.SelectorExpr); ok {
