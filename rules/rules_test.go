@@ -117,6 +117,11 @@ func TestMirrorAsksTheVault(t *testing.T) {
 	imports(t, "mirror", "api", "codec", "node", "annals", "verify", "vault")
 }
 
+// TestConsoleAsksTheFaces: a console knows a store by the vault's face, and by those beside it, alone.
+func TestConsoleAsksTheFaces(t *testing.T) {
+	imports(t, "console", "api", "digest", "disk", "prove", "verify", "annals", "vault", "audit", "mirror")
+}
+
 // TestAuditOpensNothing: an audit needs no catalog, no vault and no store of blobs, of which it takes the digest alone.
 func TestAuditOpensNothing(t *testing.T) {
 	imports(t, "audit", "api", "disk", "codec", "segment", "blobs", "node", "annals", "heaps", "pages")
